@@ -1,0 +1,136 @@
+package chain
+
+import (
+	"purser/api"
+	"purser/block"
+	"purser/coin"
+)
+
+// effect does what a record of a kind tells, and says whether its condition was satisfied; if not, nothing is done.
+type effect func(payload []byte) bool
+
+// effects are those of the kinds of records.
+func (c *Chain) effects() map[int]effect {
+	return map[int]effect{
+		api.KindBlock:   c.take,
+		api.KindMarked:  c.mark,
+		api.KindCut:     c.cut,
+		api.KindApply:   c.apply,
+		api.KindDropped: c.drop,
+		api.KindJoined:  c.join,
+	}
+}
+
+// do does what a record tells, and says whether its condition was satisfied.
+func (c *Chain) do(r api.Record) bool {
+	done := c.effects()[r.Kind]
+	return done != nil && done(r.Payload)
+}
+
+// Replay does what a group of records tells, all of it or nothing.
+func (c *Chain) Replay(group []api.Record) api.Errno {
+	if c.none() {
+		return api.ErrNil
+	}
+	after := c.Copy()
+	for _, r := range group {
+		if !after.do(r) {
+			return api.ErrChain
+		}
+	}
+	*c = *after
+	return api.OK
+}
+
+// inTree says whether the tree has a block.
+func (c *Chain) inTree(x api.Hash) bool { return c.blocks[x] != nil }
+
+// take adds a block to the tree, or to the pool if its parent is not in the tree.
+func (c *Chain) take(payload []byte) bool {
+	b, e := block.Decode(payload)
+	if e != api.OK {
+		return false
+	}
+	x := block.Hash(b.Header)
+	switch {
+	case c.inTree(x) || c.pool.Has(x):
+		return false
+	case c.inTree(b.Header.Prev):
+		return c.plant(b)
+	}
+	return c.pool.Put(b) == api.OK
+}
+
+// plant adds a block to the tree.
+func (c *Chain) plant(b api.Block) bool {
+	x, e := c.tree.Add(b.Header)
+	if e != api.OK {
+		return false
+	}
+	c.blocks[x] = &b
+	return true
+}
+
+// join moves an orphan from the pool to the tree.
+func (c *Chain) join(payload []byte) bool {
+	b, is := c.orphan(payload)
+	if !is || !c.inTree(b.Header.Prev) {
+		return false
+	}
+	return c.drop(payload) && c.plant(b)
+}
+
+// drop removes an orphan from the pool.
+func (c *Chain) drop(payload []byte) bool {
+	x, is := hashOf(payload)
+	if !is {
+		return false
+	}
+	_, e := c.pool.Take(x)
+	return e == api.OK
+}
+
+// orphan is the block of the pool whose hash a payload is, and whether there is one.
+func (c *Chain) orphan(payload []byte) (api.Block, bool) {
+	x, is := hashOf(payload)
+	if !is {
+		return api.Block{}, false
+	}
+	b, e := c.pool.Copy().Take(x)
+	return b, e == api.OK
+}
+
+// mark marks a node of the tree.
+func (c *Chain) mark(payload []byte) bool {
+	x, is := hashOf(payload)
+	return is && c.tree.Mark(x) == api.OK
+}
+
+// hashOf is the hash that a payload is, and whether it is one.
+func hashOf(payload []byte) (x api.Hash, is bool) {
+	return x, copy(x[:], payload) == len(x) && len(payload) == len(x)
+}
+
+// cut removes the blocks above a height from the active chain.
+func (c *Chain) cut(payload []byte) bool {
+	height, e := coin.CutOf(payload)
+	if e != api.OK || height > c.height() {
+		return false
+	}
+	c.active = c.active[:height+1]
+	return c.store.Cut(height) == api.OK
+}
+
+// apply lets a block be the next one of the active chain.
+func (c *Chain) apply(payload []byte) bool {
+	changes, e := coin.Decode(payload)
+	if e != api.OK {
+		return false
+	}
+	n, is := c.tree.Node(changes.Block)
+	if !is || n.Header.Prev != c.Tip() || c.store.Apply(changes) != api.OK {
+		return false
+	}
+	c.active = append(c.active, n.Hash)
+	return true
+}
