@@ -264,6 +264,26 @@ func TestSeveralMarked(t *testing.T) {
 	}
 }
 
+// P28.2: a block behind the submitted one is bad, and the branch is not best without it.
+func TestMarkedBehind(t *testing.T) {
+	c, g := made(t, params()), genesis(params())
+	a1 := g.next(1, 50)
+	a2 := a1.next(2, 50)
+	a3 := a2.next(3, 50)
+	b1 := g.next(4, 50)
+	b2 := b1.next(5, 50)
+	b3 := b2.next(6, 99)
+	b4 := b3.next(7, 50)
+	active(t, c, a1, a2, a3)
+	side(t, c, b1)
+	becomes(t, c, b3, api.StatusOrphan, api.OK, api.KindBlock)
+	becomes(t, c, b4, api.StatusOrphan, api.OK, api.KindBlock)
+	becomes(t, c, b2, api.StatusSide, api.OK, api.KindBlock, api.KindJoined, api.KindJoined, api.KindCut, api.KindApply, api.KindApply, api.KindMarked, api.KindCut, api.KindApply, api.KindApply, api.KindApply)
+	if c.Tip() != a3.hash() || c.Status(b3.hash()) != api.StatusMarked || c.Status(b2.hash()) != api.StatusSide {
+		t.Error("status")
+	}
+}
+
 // P28.2
 func TestOrphansConnected(t *testing.T) {
 	p := params()
@@ -405,6 +425,15 @@ func TestReplayConditions(t *testing.T) {
 	}
 	if c.Status(a2.hash()) != 0 {
 		t.Error("a group that is not applicable changed something")
+	}
+	// The height fits, but not the parent.
+	b1 := g.next(30, 50)
+	b2 := b1.next(31, 50)
+	other := c.Copy()
+	side(t, other, b1)
+	strange, _ := coin.Encode(api.Apply{Height: 2, Block: b2.hash()})
+	if e := other.Replay([]api.Record{of(api.KindBlock, b2.bytes()), of(api.KindApply, strange)}); e != api.ErrChain {
+		t.Error(e)
 	}
 	full := c.Copy()
 	for i := range 3 {

@@ -42,42 +42,31 @@ func (c *Chain) Replay(group []api.Record) api.Errno {
 	return api.OK
 }
 
-// inTree says whether the tree has a block.
-func (c *Chain) inTree(x api.Hash) bool { return c.blocks[x] != nil }
-
 // take adds a block to the tree, or to the pool if its parent is not in the tree.
 func (c *Chain) take(payload []byte) bool {
 	b, e := block.Decode(payload)
-	if e != api.OK {
+	if e != api.OK || c.pool.Has(block.Hash(b.Header)) {
 		return false
 	}
-	x := block.Hash(b.Header)
-	switch {
-	case c.inTree(x) || c.pool.Has(x):
-		return false
-	case c.inTree(b.Header.Prev):
-		return c.plant(b)
+	if e = c.plant(b); e == api.ErrTree {
+		e = c.pool.Put(b)
 	}
-	return c.pool.Put(b) == api.OK
+	return e == api.OK
 }
 
 // plant adds a block to the tree.
-func (c *Chain) plant(b api.Block) bool {
+func (c *Chain) plant(b api.Block) api.Errno {
 	x, e := c.tree.Add(b.Header)
-	if e != api.OK {
-		return false
+	if e == api.OK {
+		c.blocks[x] = &b
 	}
-	c.blocks[x] = &b
-	return true
+	return e
 }
 
 // join moves an orphan from the pool to the tree.
 func (c *Chain) join(payload []byte) bool {
-	b, is := c.orphan(payload)
-	if !is || !c.inTree(b.Header.Prev) {
-		return false
-	}
-	return c.drop(payload) && c.plant(b)
+	x, is := hashOf(payload)
+	return is && c.plant(c.orphan(x)) == api.OK && c.drop(payload)
 }
 
 // drop removes an orphan from the pool.
@@ -90,14 +79,10 @@ func (c *Chain) drop(payload []byte) bool {
 	return e == api.OK
 }
 
-// orphan is the block of the pool whose hash a payload is, and whether there is one.
-func (c *Chain) orphan(payload []byte) (api.Block, bool) {
-	x, is := hashOf(payload)
-	if !is {
-		return api.Block{}, false
-	}
-	b, e := c.pool.Copy().Take(x)
-	return b, e == api.OK
+// orphan is the block of the pool with a hash, or one that has no parent.
+func (c *Chain) orphan(x api.Hash) api.Block {
+	b, _ := c.pool.Copy().Take(x)
+	return b
 }
 
 // mark marks a node of the tree.

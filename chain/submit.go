@@ -101,58 +101,42 @@ func (c *Chain) judgeHeader(h api.Header) api.Errno {
 
 // perform does all that follows from a block that is accepted; of an orphan nothing does.
 func (s *submission) perform(b []byte, x api.Hash) api.Errno {
-	if e := s.record(api.KindBlock, slices.Clone(b)); e != api.OK || s.pool.Has(x) {
-		return e
+	s.record(api.KindBlock, slices.Clone(b))
+	if s.pool.Has(x) {
+		return api.OK
 	}
-	if e := s.connect(); e != api.OK {
-		return e
-	}
+	s.connect()
 	return s.update()
 }
 
-// record does what a record tells, and keeps the record.
-func (s *submission) record(kind int, payload []byte) api.Errno {
+// record does what a record tells, and keeps the record. Its condition is satisfied, but that changes may not fit: it says whether it was.
+func (s *submission) record(kind int, payload []byte) bool {
 	r := api.Record{Kind: kind, Payload: payload}
-	if !s.do(r) {
-		return api.ErrChain
-	}
 	s.records = append(s.records, r)
-	return api.OK
+	return s.do(r)
 }
 
 // recordHash records a hash.
-func (s *submission) recordHash(kind int, x api.Hash) api.Errno {
-	return s.record(kind, slices.Clone(x[:]))
-}
+func (s *submission) recordHash(kind int, x api.Hash) { s.record(kind, x[:]) }
 
 // connect connects orphans whose parents are in the tree.
-func (s *submission) connect() api.Errno {
-	for {
-		x, found := s.pool.Next(s.inTree)
-		if !found {
-			return api.OK
-		}
-		b, _ := s.orphan(x[:])
-		e := api.OK
-		if s.judgeHeader(b.Header) == api.OK && !s.tree.Bad(b.Header.Prev) {
-			e = s.recordHash(api.KindJoined, x)
+func (s *submission) connect() {
+	for x, found := s.pool.Next(s.inTree); found; x, found = s.pool.Next(s.inTree) {
+		h := s.orphan(x).Header
+		if s.judgeHeader(h) == api.OK && !s.tree.Bad(h.Prev) {
+			s.recordHash(api.KindJoined, x)
 		} else {
-			e = s.dropAll(x)
-		}
-		if e != api.OK {
-			return e
+			s.dropAll(x)
 		}
 	}
 }
 
 // dropAll drops an orphan, and then those that descend from it.
-func (s *submission) dropAll(x api.Hash) api.Errno {
-	for _, y := range slices.Concat([]api.Hash{x}, s.pool.Copy().Drop(x)) {
-		if e := s.recordHash(api.KindDropped, y); e != api.OK {
-			return e
-		}
+func (s *submission) dropAll(x api.Hash) {
+	s.recordHash(api.KindDropped, x)
+	for _, y := range s.pool.Copy().Drop(x) {
+		s.recordHash(api.KindDropped, y)
 	}
-	return api.OK
 }
 
 // update lets the active chain be the path to the best node.
@@ -161,15 +145,12 @@ func (s *submission) update() api.Errno {
 		if s.began.Height-s.forkHeight(s.began.Hash, best) > s.params.Depth {
 			return api.ErrDepth
 		}
-		fork := s.forkHeight(s.Tip(), best)
-		if fork != s.height() {
+		if fork := s.forkHeight(s.Tip(), best); fork != s.height() {
 			cut, _ := coin.Cut(fork)
-			if e := s.record(api.KindCut, cut); e != api.OK {
-				return e
-			}
+			s.record(api.KindCut, cut)
 		}
-		if e := s.advance(best); e != api.OK {
-			return e
+		if !s.advance(best) {
+			return api.ErrChain
 		}
 	}
 	return api.OK
@@ -182,23 +163,23 @@ func (s *submission) forkHeight(x, y api.Hash) int {
 	return n.Height
 }
 
-// advance applies the blocks behind the tip on the path to a node, up to the first one that fails, which is marked.
-func (s *submission) advance(to api.Hash) api.Errno {
-	e := api.OK
+// advance applies the blocks behind the tip on the path to a node, up to the first one that fails, which is marked. It says whether the changes fit the store.
+func (s *submission) advance(to api.Hash) bool {
+	fit := true
 applying:
 	for x, b := range s.ahead(to) {
-		changes, why := rules.Connect(s.params, s.store, b, x)
-		if why != api.OK {
-			s.marked = append(s.marked, verdict{x, why})
-			e = s.recordHash(api.KindMarked, x)
+		changes, e := rules.Connect(s.params, s.store, b, x)
+		if e != api.OK {
+			s.marked = append(s.marked, verdict{x, e})
+			s.recordHash(api.KindMarked, x)
 			break applying
 		}
-		encoded, _ := coin.Encode(changes) // of changes that may not be there are no bytes, which do not fit either
-		if e = s.record(api.KindApply, encoded); e != api.OK {
+		encoded, _ := coin.Encode(changes) // there are no bytes of what is not valid, and these do not fit either
+		if fit = s.record(api.KindApply, encoded); !fit {
 			break applying
 		}
 	}
-	return e
+	return fit
 }
 
 // ahead produces the blocks behind the tip on the path to a node, each with its hash.

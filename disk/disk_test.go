@@ -129,7 +129,10 @@ func TestOperations(t *testing.T) {
 	is(t, "all of it", d.Truncate("a", 10), api.OK)
 	is(t, "less", d.Truncate("a", 4), api.OK)
 	has(t, d, "a", "abcd")
-	if d.Left() != 6 || d.Operations() != 9 {
+	c := d.Copy()
+	is(t, "nothing is left", c.Truncate("a", 0), api.OK)
+	has(t, c, "a", "")
+	if d.Left() != 6 || d.Operations() != 9 || c.Left() != 10 {
 		t.Error(d.Left(), d.Operations())
 	}
 	write(t, d, "b", "xyz", "")
@@ -392,6 +395,36 @@ func TestApart(t *testing.T) {
 	d.Sync("b")
 	d.Boot()
 	has(t, d, "a", "abc", "b", "")
+}
+
+// P15.4, P15.5
+func TestCopiesApart(t *testing.T) {
+	d := made(t, 100)
+	write(t, d, "a", "abcdefghi", "jkl")
+	d.Truncate("a", 5)
+	c, e := d.Copy(), d.Copy()
+	d.Append("a", []byte("one"))
+	c.Append("a", []byte("two"))
+	c.Create("c")
+	e.Append("a", []byte("xyz"))
+	e.Fall(api.Fall{Keep: []int{9}, Bits: 0x20202020})
+	e.Boot()
+	d.Remove("a")
+	has(t, d)
+	has(t, c, "a", "abcdetwo", "c", "")
+	has(t, e, "a", "abcdeXYZ")
+	if d.Left() != 100 || c.Left() != 92 || e.Left() != 92 {
+		t.Error(d.Left(), c.Left(), e.Left())
+	}
+	keep := []int{9}
+	c.Arm(api.Fall{At: 1, Keep: keep})
+	f := c.Copy()
+	keep[0] = 0
+	for _, x := range []*disk.Disk{c, f} {
+		is(t, "armed", x.Append("a", []byte("!")), api.ErrDown)
+		x.Boot()
+		has(t, x, "a", "abcdetwo!", "c", "")
+	}
 }
 
 // P15.6

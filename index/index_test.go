@@ -293,19 +293,30 @@ func TestApart(t *testing.T) {
 	same(t, "shared", x.Of([]byte("script"), 5), want)
 }
 
-// P21.2: a great index is still asked in time.
+// P21.2: a great index is still asked in time, though its versions come in order.
 func TestMany(t *testing.T) {
+	const many = 40000
 	x := index.New()
-	for i := range 50000 {
-		p := api.Outpoint{Tx: api.Hash{byte(i), byte(i >> 8), byte(i >> 16)}, N: uint32(i)}
-		if e := x.Put(api.Version{Point: p, Made: i, Script: []byte{byte(i % 7)}}); e != api.OK {
+	at := func(i int) api.Outpoint {
+		return api.Outpoint{Tx: api.Hash{byte(i >> 16), byte(i >> 8), byte(i)}}
+	}
+	for i := range many {
+		if e := x.Put(api.Version{Point: at(i), Made: i, Script: []byte{byte(i % 7)}}); e != api.OK {
 			t.Fatal(i, e)
 		}
-		if v, there := x.At(p, i); !there || v.Made != i {
+		if v, there := x.At(at(i/2), i); !there || v.Made != i/2 {
 			t.Fatal(i)
 		}
 	}
-	if x.Len() != 50000 || len(x.Scripts(50000)) != 7 {
+	if x.Len() != many || len(x.Scripts(many)) != 7 || len(x.All(many)) != many {
+		t.Error(x.Len())
+	}
+	for i := many - 1; i >= 0; i-- {
+		if e := x.Drop(at(i), i); e != api.OK {
+			t.Fatal(i, e)
+		}
+	}
+	if x.Len() != 0 || len(x.Every()) != 0 {
 		t.Error(x.Len())
 	}
 }

@@ -88,6 +88,18 @@ func TestExample(t *testing.T) {
 }
 
 // P19.2
+func TestSize(t *testing.T) {
+	for size, closed := range map[int]int{115: 1, 116: 1, 117: 0} {
+		l := opened(t, made(t, 1000), size)
+		l.Append(twenty())
+		l.Append(twenty())
+		if len(l.Manifest().Parts) != closed {
+			t.Error(size, l.Manifest())
+		}
+	}
+}
+
+// P19.2
 func TestAppendWrong(t *testing.T) {
 	d := made(t, 1000)
 	l := opened(t, d, 64)
@@ -345,7 +357,9 @@ func TestCrashes(t *testing.T) {
 				if r.Intn(3) == 0 {
 					d.Arm(api.Fall{At: 1 + r.Intn(4), Keep: []int{r.Intn(80), r.Intn(80), r.Intn(80), r.Intn(80)}, Done: r.Intn(2) == 0})
 				}
-				l, e = log.Open(d, 64+r.Intn(100))
+				if l, e = log.Open(d, 64+r.Intn(100)); (e == api.OK) != d.Up() {
+					t.Fatal(round, step, e)
+				}
 			}
 			if e != api.OK {
 				t.Fatal(round, step, e)
@@ -371,8 +385,14 @@ func TestCrashAtEveryOperation(t *testing.T) {
 				d.Create("seg.2")
 				d.Arm(api.Fall{At: at, Keep: []int{keep, keep, keep, keep}, Done: done})
 				e := l.Append(twenty()) // closes the segment
+				if (e == api.OK) != d.Up() || e != api.OK && e != api.ErrDown {
+					t.Fatal(at, done, keep, e)
+				}
 				d.Boot()
 				l, f := log.Open(d, 64)
+				if (f == api.OK) != d.Up() {
+					t.Fatal(at, done, keep, f)
+				}
 				for f == api.ErrDown { // the crash was still armed
 					d.Boot()
 					l, f = log.Open(d, 64)

@@ -83,15 +83,15 @@ func TestNone(t *testing.T) {
 		t.Error(p.Len(), p.All())
 	}
 	for _, e := range []*octet.Eye{nil, new(octet.Eye)} {
-		_, a := e.Fixed(3)
-		_, b := e.Size()
-		_, c := e.Bytes(-1)
-		_, d := e.Raw(-1)
+		n, a := e.Fixed(3)
+		m, b := e.Size()
+		s, c := e.Bytes(-1)
+		r, d := e.Raw(-1)
 		for _, x := range []api.Errno{a, b, c, d, e.End()} {
 			is(t, "eye", x, api.ErrNil)
 		}
-		if e.Left() != 0 {
-			t.Error(e.Left())
+		if n != 0 || m != 0 || s != nil || r != nil || e.Left() != 0 {
+			t.Error(n, m, s, r, e.Left())
 		}
 	}
 }
@@ -100,8 +100,11 @@ func TestNone(t *testing.T) {
 func TestEyeFixed(t *testing.T) {
 	e := octet.Look([]byte{1, 2, 3, 4, 5, 6, 7, 8, 9, 10, 11, 12, 13, 14, 15, 16})
 	for _, size := range []int{-1, 0, 3, 5, 9} {
-		_, got := e.Fixed(size)
+		n, got := e.Fixed(size)
 		is(t, "size", got, api.ErrArg)
+		if n != 0 || e.Left() != 16 {
+			t.Error(n, e.Left())
+		}
 	}
 	for _, want := range []struct {
 		size int
@@ -116,6 +119,10 @@ func TestEyeFixed(t *testing.T) {
 		if n, got := e.Fixed(size); n != 0 || got != api.ErrOctet || e.Left() != 1 {
 			t.Error(size, n, got, e.Left())
 		}
+	}
+	is(t, "one byte ahead of the end", e.End(), api.ErrOctet)
+	if n, got := e.Fixed(1); n != 16 || got != api.OK || e.Left() != 0 || e.End() != api.OK {
+		t.Error(n, got, e.Left())
 	}
 	_, got := octet.Look(nil).Fixed(3)
 	is(t, "size ahead of lack", got, api.ErrArg)

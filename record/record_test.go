@@ -89,6 +89,18 @@ func TestDecode(t *testing.T) {
 }
 
 // P16.2
+func TestDecodeDamaged(t *testing.T) {
+	b := encoding(valid()[0])
+	for at := range b {
+		c := slices.Clone(b)
+		c[at] ^= 0x10
+		if r, next, e := record.Decode(c, 0); r.Kind != 0 || r.Payload != nil || next != 0 || e != api.ErrRecord {
+			t.Error(at, r, next, e)
+		}
+	}
+}
+
+// P16.2
 func TestDecodeLong(t *testing.T) {
 	payload := make([]byte, 200001)
 	long := slices.Concat(summed([]byte{1, 0x41, 0x0D, 3, 0}), summed(payload))

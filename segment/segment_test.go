@@ -103,6 +103,14 @@ func TestGreatest(t *testing.T) {
 	}
 }
 
+// P17.2: the bound is that of each group.
+func TestSeveralGreat(t *testing.T) {
+	b, ends := encoded(t, 1, [][]api.Record{great(1500000), great(1500000), groups()[0], great(1400000)})
+	if l, end := segment.Read(b, 1); len(l) != 4 || end != ends[3] {
+		t.Error(len(l), end)
+	}
+}
+
 // P17.2, P17.5
 func TestRead(t *testing.T) {
 	for _, number := range []uint64{1, 7, 1 << 40} {

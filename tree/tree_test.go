@@ -142,6 +142,20 @@ func TestNodes(t *testing.T) {
 	}
 }
 
+// P26.3
+func TestBehind(t *testing.T) {
+	x := tree.New(root())
+	var want []api.Hash
+	for n := range 50 {
+		h := child(root(), n, easy)
+		add(t, x, h, child(h, n, easy))
+		want = append(want, block.Hash(h))
+	}
+	if got := x.Behind(block.Hash(root())); !slices.Equal(got, want) {
+		t.Error(got)
+	}
+}
+
 // P26.2
 func TestWorkCounts(t *testing.T) {
 	a := root()
