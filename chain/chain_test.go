@@ -79,8 +79,10 @@ func TestExample(t *testing.T) {
 	if !slices.Equal(c.Orphans(), []api.Hash{three.hash()}) || c.Tip() != one.hash() {
 		t.Error(c.Orphans())
 	}
-	if _, is := c.Block(three.hash()); is {
-		t.Error("an orphan is not in the tree")
+	for _, x := range []api.Hash{three.hash(), two.hash(), {}} {
+		if _, is := c.Block(x); is {
+			t.Error("not in the tree")
+		}
 	}
 	records = becomes(t, c, two, api.StatusActive, api.OK, api.KindBlock, api.KindJoined, api.KindApply, api.KindApply)
 	payload(t, records[1], api.KindJoined, hashBytes(three))

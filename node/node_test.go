@@ -52,7 +52,7 @@ func TestOpen(t *testing.T) {
 	for room := range 500 {
 		small := made(t, room)
 		n, e := node.Open(small, params(), 1000)
-		if (n == nil) != (e != api.OK) || e != api.OK && e != api.ErrFull {
+		if (n == nil) != (e != api.OK) || e != api.OK && e != api.ErrFull || e == api.OK && n.Count() != 1 {
 			t.Fatal(room, e)
 		}
 	}
