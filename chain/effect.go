@@ -12,12 +12,12 @@ type effect func(payload []byte) bool
 // effects are those of the kinds of records.
 func (c *Chain) effects() map[int]effect {
 	return map[int]effect{
-		api.KindBlock:   c.take,
-		api.KindMarked:  c.mark,
-		api.KindCut:     c.cut,
-		api.KindApply:   c.apply,
-		api.KindDropped: c.drop,
-		api.KindJoined:  c.join,
+		api.KindBlock:   c.addBlock,
+		api.KindMarked:  c.markNode,
+		api.KindCut:     c.cutActive,
+		api.KindApply:   c.applyChanges,
+		api.KindDropped: c.dropOrphan,
+		api.KindJoined:  c.joinOrphan,
 	}
 }
 
@@ -42,20 +42,20 @@ func (c *Chain) Replay(group []api.Record) api.Errno {
 	return api.OK
 }
 
-// take adds a block to the tree, or to the pool if its parent is not in the tree.
-func (c *Chain) take(payload []byte) bool {
+// addBlock adds a block to the tree, or to the pool if its parent is not in the tree.
+func (c *Chain) addBlock(payload []byte) bool {
 	b, e := block.Decode(payload)
 	if e != api.OK || c.pool.Has(block.Hash(b.Header)) {
 		return false
 	}
-	if e = c.plant(b); e == api.ErrTree {
+	if e = c.addToTree(b); e == api.ErrTree {
 		e = c.pool.Put(b)
 	}
 	return e == api.OK
 }
 
-// plant adds a block to the tree.
-func (c *Chain) plant(b api.Block) api.Errno {
+// addToTree adds a block to the tree.
+func (c *Chain) addToTree(b api.Block) api.Errno {
 	x, e := c.tree.Add(b.Header)
 	if e == api.OK {
 		c.blocks[x] = &b
@@ -63,14 +63,14 @@ func (c *Chain) plant(b api.Block) api.Errno {
 	return e
 }
 
-// join moves an orphan from the pool to the tree.
-func (c *Chain) join(payload []byte) bool {
+// joinOrphan moves an orphan from the pool to the tree.
+func (c *Chain) joinOrphan(payload []byte) bool {
 	x, is := hashOf(payload)
-	return is && c.plant(c.orphan(x)) == api.OK && c.drop(payload)
+	return is && c.addToTree(c.orphan(x)) == api.OK && c.dropOrphan(payload)
 }
 
-// drop removes an orphan from the pool.
-func (c *Chain) drop(payload []byte) bool {
+// dropOrphan removes an orphan from the pool.
+func (c *Chain) dropOrphan(payload []byte) bool {
 	x, is := hashOf(payload)
 	if !is {
 		return false
@@ -85,19 +85,20 @@ func (c *Chain) orphan(x api.Hash) api.Block {
 	return b
 }
 
-// mark marks a node of the tree.
-func (c *Chain) mark(payload []byte) bool {
+// markNode marks a node of the tree.
+func (c *Chain) markNode(payload []byte) bool {
 	x, is := hashOf(payload)
 	return is && c.tree.Mark(x) == api.OK
 }
 
 // hashOf is the hash that a payload is, and whether it is one.
 func hashOf(payload []byte) (x api.Hash, is bool) {
-	return x, copy(x[:], payload) == len(x) && len(payload) == len(x)
+	copied := copy(x[:], payload)
+	return x, copied == len(x) && copied == len(payload)
 }
 
-// cut removes the blocks above a height from the active chain.
-func (c *Chain) cut(payload []byte) bool {
+// cutActive removes the blocks above a height from the active chain.
+func (c *Chain) cutActive(payload []byte) bool {
 	height, e := coin.CutOf(payload)
 	if e != api.OK || height > c.height() {
 		return false
@@ -106,8 +107,8 @@ func (c *Chain) cut(payload []byte) bool {
 	return c.store.Cut(height) == api.OK
 }
 
-// apply lets a block be the next one of the active chain.
-func (c *Chain) apply(payload []byte) bool {
+// applyChanges lets a block be the next one of the active chain.
+func (c *Chain) applyChanges(payload []byte) bool {
 	changes, e := coin.Decode(payload)
 	if e != api.OK {
 		return false

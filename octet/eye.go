@@ -17,13 +17,13 @@ func Look(b []byte) *Eye {
 	return &Eye{unread: slices.Clone(b), made: true}
 }
 
-// blind says whether Look did not make the eye.
-func (e *Eye) blind() bool { return e == nil || !e.made }
+// none says whether Look did not make the eye.
+func (e *Eye) none() bool { return e == nil || !e.made }
 
 // Fixed reads a fixed integer of so many bytes.
 func (e *Eye) Fixed(size int) (uint64, api.Errno) {
 	switch {
-	case e.blind():
+	case e.none():
 		return 0, api.ErrNil
 	case !isSize(size):
 		return 0, api.ErrArg
@@ -46,7 +46,7 @@ func number(b []byte) uint64 {
 
 // Size reads a compact size in its shortest encoding.
 func (e *Eye) Size() (uint64, api.Errno) {
-	if e.blind() {
+	if e.none() {
 		return 0, api.ErrNil
 	}
 	n, length, is := e.size()
@@ -88,7 +88,7 @@ func announced(first byte) int {
 
 // Bytes reads a byte string of at most so many bytes.
 func (e *Eye) Bytes(most int) ([]byte, api.Errno) {
-	if e.blind() {
+	if e.none() {
 		return nil, api.ErrNil
 	}
 	n, length, is := e.size()
@@ -102,7 +102,7 @@ func (e *Eye) Bytes(most int) ([]byte, api.Errno) {
 // Raw reads the next n bytes.
 func (e *Eye) Raw(n int) ([]byte, api.Errno) {
 	switch {
-	case e.blind():
+	case e.none():
 		return nil, api.ErrNil
 	case n < 0:
 		return nil, api.ErrArg
@@ -116,7 +116,7 @@ func (e *Eye) Raw(n int) ([]byte, api.Errno) {
 
 // Left is how many bytes are unread.
 func (e *Eye) Left() int {
-	if e.blind() {
+	if e.none() {
 		return 0
 	}
 	return len(e.unread)
@@ -125,7 +125,7 @@ func (e *Eye) Left() int {
 // End says whether everything was read.
 func (e *Eye) End() api.Errno {
 	switch {
-	case e.blind():
+	case e.none():
 		return api.ErrNil
 	case len(e.unread) > 0:
 		return api.ErrOctet

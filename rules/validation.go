@@ -53,8 +53,8 @@ func (w view) find(p api.Outpoint) (api.Version, bool) {
 	return v, there
 }
 
-// court judges the transactions of a block in order, and keeps what they change.
-type court struct {
+// validation judges the transactions of a block in order, and keeps what they change.
+type validation struct {
 	view
 	maturity int
 	changes  api.Apply
@@ -62,7 +62,7 @@ type court struct {
 }
 
 // judge judges a transaction; what it changes is seen by the next one.
-func (c *court) judge(id api.Hash, t api.Tx) api.Errno {
+func (c *validation) judge(id api.Hash, t api.Tx) api.Errno {
 	if twice(c.view, id, t) {
 		return api.ErrTwice
 	}
@@ -91,7 +91,7 @@ func twice(w coins, id api.Hash, t api.Tx) bool {
 }
 
 // inputs judges the inputs of a transaction, and is its fee.
-func (c *court) inputs(w coins, t api.Tx) (int64, api.Errno) {
+func (c *validation) inputs(w coins, t api.Tx) (int64, api.Errno) {
 	sum := int64(0)
 	var locks [][]byte
 	for _, in := range t.In {
@@ -116,7 +116,7 @@ func (c *court) inputs(w coins, t api.Tx) (int64, api.Errno) {
 }
 
 // spend takes what a transaction spends out of the view.
-func (c *court) spend(id api.Hash, t api.Tx) {
+func (c *validation) spend(id api.Hash, t api.Tx) {
 	for _, in := range t.In {
 		c.gone[in.Prev] = struct{}{}
 		c.changes.Spends = append(c.changes.Spends, api.Spend{Point: in.Prev, Spender: id})
@@ -124,7 +124,7 @@ func (c *court) spend(id api.Hash, t api.Tx) {
 }
 
 // make puts what a transaction makes into the view; what is burnt is not made.
-func (c *court) make(id api.Hash, t api.Tx, base bool) {
+func (c *validation) make(id api.Hash, t api.Tx, base bool) {
 	for n, out := range t.Out {
 		if ops.Burnt(out.Script) {
 			c.changes.Burnt += out.Value
