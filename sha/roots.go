@@ -7,7 +7,7 @@ import (
 	"purser/wide"
 )
 
-// tables are SHA-256's constants, built at the first use of them.
+// tables are SHA-256's constants, built at the first call of Roots, which alone reads them: the hashes take squares and cubes.
 var tables struct {
 	once   sync.Once
 	square [8]uint32

@@ -22,7 +22,7 @@ func counted(n int) []byte {
 	return b
 }
 
-// P4.1, P4.4: the first test, so that nothing else has built the tables.
+// P4.1, P4.4
 func TestRoots(t *testing.T) {
 	square, cube := sha.Roots()
 	if len(square) != 8 || len(cube) != 64 || square[0] != 0x6a09e667 || cube[0] != 0x428a2f98 || square[7] != 0x5be0cd19 || cube[63] != 0xc67178f2 {

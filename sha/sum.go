@@ -24,8 +24,7 @@ type Sum struct {
 
 // New is a sum of the empty message.
 func New() *Sum {
-	build()
-	return &Sum{state: tables.square, made: true}
+	return &Sum{state: squares(), made: true}
 }
 
 // none says whether neither New nor Copy made the sum.
@@ -116,11 +115,11 @@ func (s *Sum) Copy() *Sum {
 
 // mixed is the state behind a block.
 func mixed(state [8]uint32, block [blockSize]byte) [8]uint32 {
-	words := schedule(block)
+	words, roots := schedule(block), cubes()
 	a, b, c, d, e, f, g, h := state[0], state[1], state[2], state[3], state[4], state[5], state[6], state[7]
 	for i := range 64 {
 		turnedE := turned(e, 6) ^ turned(e, 11) ^ turned(e, 25)
-		first := h + turnedE + (e&f ^ ^e&g) + tables.cube[i] + words[i]
+		first := h + turnedE + (e&f ^ ^e&g) + roots[i] + words[i]
 		turnedA := turned(a, 2) ^ turned(a, 13) ^ turned(a, 22)
 		second := turnedA + (a&b ^ a&c ^ b&c)
 		h, g, f, e, d, c, b, a = g, f, e, d+first, c, b, a, first+second
